@@ -204,6 +204,21 @@ func (d *directory) crash(keep []int) {
 	d.fuel = -1
 }
 
+// overwrite is no step: bytes go bad behind the process. The data must be of
+// the size that was there, since what is synced stays.
+func (d *directory) overwrite(name string, data string) {
+	d.lock.Lock()
+	defer d.lock.Unlock()
+	d.files[name] = content{data: data, synced: d.files[name].synced}
+}
+
+// refuel is no step either.
+func (d *directory) refuel(fuel int) {
+	d.lock.Lock()
+	defer d.lock.Unlock()
+	d.fuel = fuel
+}
+
 // keptBytes cuts keep[i] down to 0..most ahead of any sum with it, since it
 // may be any number.
 func keptBytes(keep []int, i int, most int) int {

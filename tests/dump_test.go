@@ -42,14 +42,19 @@ func TestDumpOfNoStore(t *testing.T) {
 	}
 }
 
-func TestDumpOfCurrent(t *testing.T) {
-	manifest := editFrame(impl.Edit{Log: 1, Next: 2})
-	for _, current := range []string{
+// notManifests has texts that are nearly the name of a manifest.
+func notManifests() []string {
+	return []string{
 		"", "\n", "MANIFEST", "MANIFEST-", "MANIFEST-0", "MANIFEST-00", "MANIFEST-01", "MANIFEST-001", "MANIFEST-+1", "MANIFEST--1",
 		"MANIFEST-1000000000", "MANIFEST-9999999999", "MANIFEST-99999999999999999999", "MANIFEST-18446744073709551617", "MANIFEST-0000000001",
 		"MANIFEST-1\n", "MANIFEST-1 ", " MANIFEST-1", "MANIFEST- 1", "MANIFEST-1.", "MANIFEST-1_0", "MANIFEST-0x1", "MANIFEST-1a", "MANIFEST-a", "MANIFEST-1\x00",
 		"MANIFEST-\xd9\xa1", "manifest-1", "Manifest-1", "MANIFEST_1", "MANIFEST1", "xMANIFEST-1", "1", "1.log", "1.sst", "CURRENT", "CURRENT.tmp", "lost/MANIFEST-1", "repair.ok",
-	} {
+	}
+}
+
+func TestDumpOfCurrent(t *testing.T) {
+	manifest := editFrame(impl.Edit{Log: 1, Next: 2})
+	for _, current := range notManifests() {
 		texts := []string{"CURRENT", current, "MANIFEST-1", manifest}
 		expectDump(t, "CURRENT is "+brief(current), holding(texts...), "bad CURRENT\n")
 		if current != "" && current != "CURRENT" {
