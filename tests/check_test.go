@@ -79,6 +79,23 @@ func TestCheckOfTables(t *testing.T) {
 	expectCheck(t, "another last key", withFile(tidy(), "2.sst", sst(put("a", 10, ""), del("d", 9))), impl.CheckTable)
 }
 
+// One table of many is enough, wherever it stands.
+func TestCheckOfManyTables(t *testing.T) {
+	e := impl.Edit{Log: 900, Next: 901, Last: 9}
+	fs := withFile(emptyDir(), "900.log", "")
+	for i := range 150 {
+		e.Adds = append(e.Adds, table(i+1, i%2, strconv.Itoa(1000+i), strconv.Itoa(1000+i)))
+		fs = withFile(fs, strconv.Itoa(i+1)+".sst", sst(put(strconv.Itoa(1000+i), 9, "")))
+	}
+	fs = withFile(withFile(fs, "CURRENT", "MANIFEST-1"), "MANIFEST-1", editFrame(e))
+	expectCheck(t, "150 tables", fs, impl.CheckOk)
+	for i := range 150 {
+		name := strconv.Itoa(i+1) + ".sst"
+		expectCheck(t, name+" is hurt", withFile(fs, name, sst(put("x", 9, ""))), impl.CheckTable)
+		expectCheck(t, name+" is gone", withoutFile(fs, name), impl.CheckTable)
+	}
+}
+
 func TestCheckOfTheLog(t *testing.T) {
 	good := fileOf(tidy(), "5.log").Data
 	expectCheck(t, "gone", withoutFile(tidy(), "5.log"), impl.CheckLog)

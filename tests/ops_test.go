@@ -104,7 +104,7 @@ func numberForms() []form {
 		{"a crash with 201", opCrash(make([]int, 201)...), impl.RunBad},
 		{"a crash with none", impl.Op{Kind: impl.OpCrash, Keep: []int{}}, impl.RunOk}, {"a crash with any numbers", opCrash(minInt, maxInt, -1), impl.RunOk},
 	}
-	for _, op := range ops(opOpen, opSync, opFlush, opClose, opCheck, opDump, opList, opAll) {
+	for _, op := range ops(opOpen, opSync, opFlush, opClose, opCheck, opRepair, opDump, opList, opAll) {
 		list = append(list, form{"kind " + strconv.Itoa(op.Kind), op, impl.RunOk})
 		op.Batch, op.Keep = []impl.Entry{}, []int{}
 		list = append(list, form{"kind " + strconv.Itoa(op.Kind) + " with lists that are empty and not nil", op, impl.RunOk})
@@ -311,14 +311,44 @@ func TestListAndDump(t *testing.T) {
 }
 
 func TestCheckAndRepairAreAsked(t *testing.T) {
-	for _, fs := range []impl.FS{emptyDir(), storeDir(1, []impl.Edit{{Log: 2, Next: 3}}, "2.log", ""), storeDir(1, nil), holding("repair.ok", "x")} {
+	list := []impl.FS{emptyDir(), storeDir(1, []impl.Edit{{Log: 2, Next: 3}}, "2.log", ""), storeDir(1, nil), holding("repair.ok", "x"), withFuel(wreck(), 9), roomy(long(101), "")}
+	for _, s := range begins() {
+		list = append(list, s.fs)
+	}
+	for _, fs := range list {
 		if o := exec(t, fs, opCheck); tell(o.Answers[0]) != "0 "+strconv.Itoa(impl.Check(fs)) || !sameFS(o.Fs, fs) {
 			t.Errorf("a check gave %s", tell(o.Answers[0]))
 		}
 		o := exec(t, fs, opRepair)
 		after, code := impl.Repair(fs)
-		if tell(o.Answers[0]) != strconv.Itoa(code) || !sameFS(o.Fs, after) || o.Mode != impl.ModeClosed {
-			t.Errorf("a repair gave %s", tell(o.Answers[0]))
+		mode := impl.ModeClosed
+		if code == impl.RunDead {
+			mode = impl.ModeDead
+		}
+		if tell(o.Answers[0]) != strconv.Itoa(code) || !sameFS(o.Fs, after) || o.Mode != mode {
+			t.Errorf("a repair gave %s and mode %d", tell(o.Answers[0]), o.Mode)
 		}
 	}
+}
+
+func TestSessionsWithARepair(t *testing.T) {
+	store := []said{{opOpen, "0"}, {opPut("a", "1"), "0"}, {opFlush, "0"}, {opPut("b", "2"), "0"}, {opRepair, "1"}, {opCheck, "1"}, {opClose, "0"}, {opCheck, "0 0"}}
+	hurt := append(slices.Clone(store), said{opPoke("3.sst", 9, "x"), "0"}, said{opCheck, "0 3"}, said{opOpen, "6"})
+	expectSession(t, "a table is hurt", emptyDir(), append(slices.Clone(hurt), said{opRepair, "0"}, said{opCheck, "0 0"}, said{opDump, "0 log 2 next 4 last 2;table 1 level 1 size 192;"},
+		said{opOpen, "0"}, said{opAll, "0 b=2"}, said{opPut("c", "3"), "0"}, said{opAll, "0 b=2 c=3"})...)
+	o := expectSession(t, "a repair that dies", emptyDir(), append(slices.Clone(hurt), said{opFuel(6), "0"}, said{opRepair, "8"}, said{opRepair, "8"}, said{opCheck, "8"}, said{opFuel(-1), "8"}, said{opList, "8"})...)
+	expectCode(t, "a repair that dies", o, impl.RunDead, impl.ModeDead)
+	if names(o.Fs) != "3.sst 4.log CURRENT MANIFEST-2 repair.tab repair.tmp" || fileOf(o.Fs, "repair.tmp").Synced != 64 {
+		t.Errorf("it leaves %s", show(o.Fs))
+	}
+	o = expectSession(t, "and again, later", o.Fs, said{opFuel(-1), "0"}, said{opCheck, "0 6"}, said{opOpen, "6"}, said{opFuel(10), "0"}, said{opRepair, "8"}, said{opCrash(), "0"}, said{opCheck, "0 6"}, said{opOpen, "6"},
+		said{opRepair, "0"}, said{opCheck, "0 0"}, said{opOpen, "0"}, said{opAll, "0 b=2"})
+	if names(o.Fs) != "1.sst 4.log CURRENT MANIFEST-5 lost/3.sst lost/4.log lost/CURRENT lost/MANIFEST-2" {
+		t.Errorf("again, later: it leaves %s", names(o.Fs))
+	}
+	fs := withFile(impl.Exec(emptyDir(), ops(opOpen, opPut("a", "1"), opClose)).Fs, long(101), "x")
+	o = expectSession(t, "a name that is too long", fs, said{opRepair, "2"}, said{opRepair, "2"}, said{opOpen, "0"}, said{opAll, "0 a=1"})
+	expectCode(t, "a name that is too long", o, impl.RunOk, impl.ModeOpen)
+	o = expectSession(t, "no room", withQuota(withoutFile(fs, long(101)), 300), said{opRepair, "3"}, said{opCheck, "0 0"}, said{opRepair, "3"}, said{opOpen, "3"})
+	expectCode(t, "no room", o, impl.RunFull, impl.ModeClosed)
 }

@@ -477,9 +477,9 @@ func (p *plainStore) perform(op impl.Op) (a impl.Answer) {
 	case impl.OpPoke:
 		p.poke(op.Key, op.N, op.Val)
 	case impl.OpCheck:
-		a.Val = strconv.Itoa(impl.Check(p.fs))
+		a.Val = strconv.Itoa(plainCheck(p.fs))
 	case impl.OpRepair:
-		p.fs, a.Code = impl.Repair(p.fs)
+		p.fs, a.Code = plainRepair(p.fs)
 	case impl.OpDump:
 		a.Val = impl.Dump(p.fs)
 	case impl.OpList:

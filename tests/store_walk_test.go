@@ -119,10 +119,7 @@ func (d *dice) otherOp(fs impl.FS) impl.Op {
 	case 11, 12:
 		return d.wrongOp()
 	case 13:
-		if d.below(12) == 0 {
-			return opRepair
-		}
-		return opList
+		return ops(opRepair, opList)[d.below(2)]
 	case 14, 15, 16, 17:
 		return opGet(d.storeKey())
 	case 18:
@@ -216,6 +213,7 @@ func expectSeen(t *testing.T, seen map[string]int) {
 		impl.OpFuel:    {impl.RunOk, impl.RunBad, impl.RunDead},
 		impl.OpPoke:    {impl.RunOk, impl.RunBad, impl.RunNone, impl.RunDead},
 		impl.OpCheck:   {impl.RunOk, impl.RunState, impl.RunBad, impl.RunDead},
+		impl.OpRepair:  {impl.RunOk, impl.RunState, impl.RunBad, impl.RunFull, impl.RunDead},
 		impl.OpDump:    {impl.RunOk, impl.RunBad, impl.RunDead},
 		impl.OpList:    {impl.RunOk, impl.RunBad, impl.RunDead},
 	}
